@@ -40,13 +40,19 @@ func insForms() []insForm {
 	}
 }
 
-func formOf(op int) (insForm, bool) {
+var formsByOp = func() map[int]insForm {
+	l := map[int]insForm{}
 	for _, f := range insForms() {
-		if slices.Contains(f.ops, op) {
-			return f, true
+		for _, op := range f.ops {
+			l[op] = f
 		}
 	}
-	return insForm{}, false
+	return l
+}()
+
+func formOf(op int) (insForm, bool) {
+	f, ok := formsByOp[op]
+	return f, ok
 }
 
 func (f insForm) may(a int) bool {
