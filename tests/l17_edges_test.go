@@ -252,9 +252,13 @@ func TestFaultsOfParams(t *testing.T) {
 	}
 	for i, f := range append(faults, good...) {
 		for k, other := range append(faults, good...) {
-			first := f.code
+			first, guarded := f.code, impl.PassGuard
 			if first == impl.PassOk {
 				first = other.code
+			}
+			// A place that is none is ahead of all else, wherever it stands.
+			if f.code == impl.PassBad || other.code == impl.PassBad {
+				first, guarded = impl.PassBad, impl.PassBad
 			}
 			for _, row := range [][]param{{f, other}, {good[i%3], f, other}, {good[k%3], f, good[i%3], other, good[0], good[1]}} {
 				var s impl.Signature
@@ -262,17 +266,17 @@ func TestFaultsOfParams(t *testing.T) {
 				for _, p := range row {
 					s.Params, args = append(s.Params, p.kind), append(args, p.at)
 				}
-				// The first fault is told, from the front, whatever it is.
+				// Of all other faults the first one is told, from the front.
 				got, places, code := checkThrough(t, from, to, s, args)
 				if code != first || code != impl.PassOk && (got != to || len(places) > 0) {
 					t.Errorf("%v: %s, %v, %d; want %d", row, partText(got), places, code, first)
 				}
-				// Ahead of all that is said of params: who may not leave, and who is inside.
+				// Ahead of all that is met in params: who may not leave, and who is inside.
 				bound, entered := from, to
 				bound.Leave, entered.Inside = false, true
 				for _, pair := range [][2]impl.Part{{bound, to}, {from, entered}, {bound, entered}} {
-					if got, places, code := checkThrough(t, pair[0], pair[1], s, args); got != pair[1] || len(places) > 0 || code != impl.PassGuard {
-						t.Errorf("%v: %s, %v, %d; want PassGuard", row, partText(got), places, code)
+					if got, places, code := checkThrough(t, pair[0], pair[1], s, args); got != pair[1] || len(places) > 0 || code != guarded {
+						t.Errorf("%v: %s, %v, %d; want %d", row, partText(got), places, code, guarded)
 					}
 				}
 			}
@@ -284,6 +288,63 @@ func TestFaultsOfParams(t *testing.T) {
 		got, places, code := checkThrough(t, from, tight, signatureOf(strings.Repeat("u64 ", many), ""), make([]int, many))
 		if many <= 4 && (code != impl.PassOk || len(places) != many) || many > 4 && (code != impl.PassLower || got != tight || len(places) > 0) {
 			t.Errorf("%d numbers of 8 bytes into 32: %v, %d", many, places, code)
+		}
+	}
+}
+
+// Promise 17: a place that is none, as each one of the places, alone and beside others: PassBad, ahead of guards and of what
+// any param tells; places at both ends of those that are some: what was told without them.
+func TestPlacesThatAreNone(t *testing.T) {
+	free, to := partOf(filledHeap(1, 0, 0), impl.CodeUtf8), partOf(filledHeap(1, 0xee, 3), impl.CodeLatin)
+	bound, odd, inside, full := free, free, to, to
+	bound.Leave, odd.Heap, inside.Inside, full.Heap.Next = false, filledHeap(1, 0xff, 0), true, 256
+	closed := inside
+	closed.Leave = false
+	for _, c := range []struct {
+		name     string
+		from, to impl.Part
+		params   string
+		code     int
+	}{
+		{"may not leave", bound, to, "u8", impl.PassGuard}, {"is inside", free, inside, "u8", impl.PassGuard}, {"is inside, may not leave", free, closed, "u8", impl.PassGuard}, {"neither", bound, inside, "u8", impl.PassGuard},
+		{"no char", odd, to, "char u8", impl.PassLift}, {"no text", odd, to, "string u8", impl.PassLift}, {"no list", odd, to, "list<u8> u8", impl.PassLift}, {"no case", odd, to, "option<u8> u8", impl.PassLift},
+		{"no room", free, full, "u8 u8", impl.PassLower}, {"no room for a text", free, full, "string u8", impl.PassLower}, {"no char, neither", bound, inside, "char char", impl.PassGuard}, {"no room, may not leave", bound, full, "u8 u8", impl.PassGuard},
+		{"nothing", free, to, "u8 string", impl.PassOk}, {"nothing of six", free, to, "u8 string u8 char u64 list<u8>", impl.PassOk}, {"no char behind", odd, to, "u8 u16 u64 flags<3> bool char", impl.PassLift},
+	} {
+		s := signatureOf(c.params, "u8")
+		many := len(s.Params)
+		if _, _, code := checkThrough(t, c.from, c.to, s, make([]int, many)); code != c.code {
+			t.Errorf("%s: %d; want %d", c.name, code, c.code)
+		}
+		for _, at := range []int{-1, 1 << 32, math.MinInt, math.MaxInt, -2, -1 << 31, -1 << 32, 1<<32 + 8, 1 << 62} {
+			// Each choice of places is none.
+			for set := 1; set < 1<<many; set++ {
+				args := make([]int, many)
+				for i := range args {
+					args[i] = at * (set >> i & 1)
+				}
+				if got, places, code := checkThrough(t, c.from, c.to, s, args); got != c.to || len(places) > 0 || code != impl.PassBad {
+					t.Errorf("%s, places %v: %s, %v, %d; want PassBad", c.name, args, partText(got), places, code)
+				}
+			}
+		}
+		for i := range many {
+			args := make([]int, many)
+			args[i] = math.MaxUint32
+			want := c.code
+			// The last place is one, where nothing lies; it is met where its param is.
+			if want == impl.PassOk || want == impl.PassLower && i == 0 {
+				want = impl.PassLift
+			}
+			if got, places, code := checkThrough(t, c.from, c.to, s, args); got != c.to || len(places) > 0 || code != want {
+				t.Errorf("%s, places %v: %s, %v, %d; want %d", c.name, args, partText(got), places, code, want)
+			}
+		}
+	}
+	// A part that is not good is the zero part, whatever the places.
+	for _, at := range []int{-1, 0, 1 << 32} {
+		if got, places, code := checkThrough(t, free, impl.Part{Name: "A"}, signatureOf("u8", ""), []int{at}); got != (impl.Part{}) || len(places) > 0 || code != impl.PassBad {
+			t.Errorf("to no part, place %d: %s, %v, %d", at, partText(got), places, code)
 		}
 	}
 }
@@ -330,6 +391,11 @@ func TestWordsNotPassed(t *testing.T) {
 		refused(kind, wordsOf(words), impl.PassLift)
 	}
 	refused("string", wordsOf("i:0 i:201"), impl.PassLift)
+	// A word that is none counts ahead of what the words ahead of it tell.
+	for kind, words := range map[string]string{"record<char,u8>": "i:55296 I:0", "record<enum<3>,u64>": "i:3 i:0", "record<string,f32>": "i:255 i:2 i:0", "option<u8>": "i:2 f:0"} {
+		refused(kind, wordsOf(words), impl.PassBad)
+	}
+	refused("record<char,u8>", []impl.Word{{Type: impl.TypeI32, Bits: 55296}, {Type: impl.TypeI32, Bits: 1 << 32}}, impl.PassBad)
 	// Types of just as many words as there may be, and of one more: those do not go as words, but by a place.
 	for many := 14; many <= 20; many++ {
 		for _, x := range []typeTree{ofWords(many), ofWordsOver(many)} {

@@ -111,9 +111,10 @@ func wantExited(p impl.Part) (impl.Part, int) {
 	return p, impl.PassOk
 }
 
-// wantThrough: who may call, then each param where the ones ahead of it have been laid.
+// wantThrough: all arguments, then who may call, then each param where the ones ahead of it have been laid.
 func wantThrough(from impl.Part, to impl.Part, s impl.Signature, args []int) (impl.Part, []int, int) {
-	if !wantPart(from) || !wantPart(to) || !wantSignature(s) || len(args) != len(s.Params) {
+	none := func(at int) bool { return at>>32 != 0 }
+	if !wantPart(from) || !wantPart(to) || !wantSignature(s) || len(args) != len(s.Params) || slices.ContainsFunc(args, none) {
 		return keptPart(to), nil, impl.PassBad
 	}
 	if !from.Leave || to.Inside {
